@@ -693,18 +693,95 @@ func TestWhereTheHeadIsLaidOverHeadsOfTheSameNumber(t *testing.T) {
 	reads(t, "the first one counts", d, 1, sealed(9, api.Head{Bank: 1, Blocks: 1, Batches: 1}))
 }
 
-func TestTheHeadThatCountsIsNeverWrittenOver(t *testing.T) {
-	// A sealed block that is no head does not count, whatever its number.
-	for _, at := range []int{0, 1} {
-		for _, other := range []api.Block{sealed(900, api.Head{Bank: 2}), sealed(2, api.Head{Batches: 1}), sealed(1<<63, api.Head{})} {
-			d := empty(t, 66)
-			h := api.Head{Bank: 1, Blocks: 2, Batches: 2}
-			lay(t, d, 1-at, other)
-			lay(t, d, at, sealed(6, h))
-			j := opened(t, d)
-			is(t, "Append", j.Append(nil), api.OK)
-			reads(t, "no head beside it", d, at, sealed(6, h))
-			reads(t, "no head beside it", d, 1-at, sealed(7, api.Head{Bank: 1, Blocks: 3, Batches: 3}))
+// beside are a block, and the number that counts where seal.Next goes by it: 0, if it is not sealed.
+var beside = []struct {
+	number uint64
+	b      api.Block
+}{
+	{900, sealed(900, api.Head{Bank: 2})},
+	{7, sealed(7, api.Head{Bank: 255})},
+	{6, sealed(6, api.Head{Batches: 1})},
+	{5, sealed(5, api.Head{Blocks: api.MaxBlocks + 1})},
+	{900, withByte(sealed(900, api.Head{}), 17, 1)},
+	{6, withByte(sealed(6, api.Head{}), 115, 128)},
+	{1<<62 + 1, sealed(1<<62+1, api.Head{})},
+	{1 << 63, sealed(1<<63, api.Head{})},
+	{1<<64 - 1, sealed(1<<64-1, api.Head{Bank: 2})},
+	{0, sealed(0, api.Head{})},
+	{0, sealed(0, api.Head{Bank: 2})},
+	{0, turned(sealed(900, api.Head{Bank: 2}), 8)},
+	{0, turned(sealed(900, api.Head{Bank: 2}), 116)},
+	{0, turned(sealed(900, api.Head{Bank: 2}), 119)},
+	{0, turned(sealed(900, api.Head{Bank: 2}), 120)},
+	{0, turned(sealed(900, api.Head{Bank: 2}), 127)},
+	{0, turned(sealed(900, api.Head{}), 0)},
+	{0, turned(sealed(900, api.Head{}), 7)},
+	{0, turned(sealed(1<<63, api.Head{}), 50)},
+	{0, api.Block{}},
+}
+
+// withByte is a block sealed anew, with a byte of its own.
+func withByte(b api.Block, at int, c byte) api.Block {
+	b[at] = c
+	binary.LittleEndian.PutUint32(b[116:120], crc32.Checksum(b[:116], castagnoli))
+	return b
+}
+
+// turned is a block with a bit turned, and not sealed therefore.
+func turned(b api.Block, at int) api.Block {
+	b[at] ^= 16
+	return b
+}
+
+// behind is which of two blocks is to be written over.
+func behind(first, second uint64) int {
+	if first > 0 && first >= second {
+		return 1
+	}
+	return 0
+}
+
+func TestWhereTheHeadIsLaidBesideWhatIsNoHead(t *testing.T) {
+	for n, x := range beside {
+		for at := range 2 {
+			for _, all := range []bool{false, true} {
+				d := empty(t, 66)
+				h := api.Head{Bank: 1, Blocks: 2, Batches: 2}
+				lay(t, d, 1-at, x.b)
+				lay(t, d, at, sealed(6, h))
+				j := opened(t, d)
+				blocks, numbers := [2]api.Block{}, [2]uint64{}
+				blocks[at], blocks[1-at] = sealed(6, h), x.b
+				numbers[at], numbers[1-at] = 6, x.number
+				// The first head goes by the one that is no head; those behind it still do, while it stands there.
+				for number := uint64(7); number < 12; number++ {
+					to := behind(numbers[0], numbers[1])
+					if to != seal.Next(blocks[0], blocks[1]) {
+						t.Fatalf("%d: seal.Next(%x, %x) is not %d", n, blocks[0], blocks[1], to)
+					}
+					is(t, "Append, Replace", do(j, []byte{1}, all), api.OK)
+					blocks[to], numbers[to] = sealed(number, j.Head()), number
+					reads(t, "the block 0", d, 0, blocks[0])
+					reads(t, "the block 1", d, 1, blocks[1])
+					tells(t, "opened", opened(t, d), j.Room(), j.Head())
+				}
+			}
+		}
+	}
+}
+
+func TestWhereTheHeadIsLaidIfThereIsNone(t *testing.T) {
+	for _, x := range beside {
+		for _, y := range beside {
+			d, j := made(t, 64)
+			lay(t, d, 0, x.b, y.b)
+			refuses(t, "no head", d, api.ErrForm)
+			is(t, "Append", j.Append([]byte{1}), api.OK)
+			want := []api.Block{x.b, y.b}
+			want[behind(x.number, y.number)] = sealed(1, api.Head{Blocks: 1, Batches: 1})
+			reads(t, "the block 0", d, 0, want[0])
+			reads(t, "the block 1", d, 1, want[1])
+			holds(t, "opened", opened(t, d), []byte{1})
 		}
 	}
 }
